@@ -2,13 +2,14 @@ package frame
 
 import (
 	"satchel/api"
+	"satchel/low"
 	"satchel/lz"
 	"satchel/xxh"
 )
 
 // encode makes the frame of plain, in a shape that can be.
 func encode(plain []byte, s api.Shape) []byte {
-	b := put(nil, magicFrame, 4)
+	b := low.Put(nil, magicFrame, 4)
 	b = append(b, headOf(s, len(plain))...)
 	size := longest(s.Block)
 	for at := 0; at < len(plain); at += size {
@@ -18,7 +19,7 @@ func encode(plain []byte, s api.Shape) []byte {
 		}
 		b = putBlock(b, piece, ahead, s.BlockSums)
 	}
-	b = put(b, 0, 4)
+	b = low.Put(b, 0, 4)
 	if s.ContentSum {
 		b = putSum(b, plain)
 	}
@@ -35,7 +36,7 @@ func headOf(s api.Shape, size int) []byte {
 	}
 	head := []byte{first, byte(s.Block << 4)}
 	if s.ContentSize {
-		head = put(head, uint64(size), 8)
+		head = low.Put(head, uint64(size), 8)
 	}
 	return append(head, headSum(head))
 }
@@ -48,7 +49,7 @@ func putBlock(b, piece, ahead []byte, sums bool) []byte {
 	if len(block) >= len(piece) {
 		block, size = piece, uint64(len(piece)|plainSize)
 	}
-	b = put(b, size, 4)
+	b = low.Put(b, size, 4)
 	b = append(b, block...)
 	if sums {
 		b = putSum(b, block)
@@ -58,5 +59,5 @@ func putBlock(b, piece, ahead []byte, sums bool) []byte {
 
 // putSum puts the sum of some bytes behind b.
 func putSum(b, of []byte) []byte {
-	return put(b, uint64(xxh.Sum32(0, of)), 4)
+	return low.Put(b, uint64(xxh.Sum32(0, of)), 4)
 }

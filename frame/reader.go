@@ -2,6 +2,7 @@ package frame
 
 import (
 	"satchel/api"
+	"satchel/low"
 	"satchel/lz"
 	"satchel/xxh"
 )
@@ -56,7 +57,7 @@ func (r *reader) take(n int) []byte {
 
 // number reads a number of so many bytes.
 func (r *reader) number(size int) uint64 {
-	return number(r.take(size))
+	return low.Number(r.take(size))
 }
 
 // check reads the sum of some bytes; that must be theirs.

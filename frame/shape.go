@@ -46,21 +46,3 @@ func headSum(head []byte) byte {
 func isSkipped(magic uint64) bool {
 	return magic&^users == magicSkipped
 }
-
-// number is the number of b's bytes, lowest first.
-func number(b []byte) uint64 {
-	var n uint64
-	for i, c := range b {
-		n |= uint64(c) << (8 * i)
-	}
-	return n
-}
-
-// put puts a number of so many bytes behind b, lowest first.
-func put(b []byte, n uint64, size int) []byte {
-	for range size {
-		b = append(b, byte(n))
-		n >>= 8
-	}
-	return b
-}
