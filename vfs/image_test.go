@@ -296,9 +296,6 @@ func TestSmallImages(t *testing.T) {
 				if kind == api.Symlink {
 					node.Target = "t"
 				}
-				if n == 1 && kind != api.Dir || n > 1 && kind != api.Dir && len(l) > 1 { // enough of these
-					continue
-				}
 				y := x
 				y.List = append(slices.Clone(x.List), node)
 				grow(y, n+1)
