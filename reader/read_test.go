@@ -278,7 +278,7 @@ func btoi(b bool) int {
 	return 0
 }
 
-// P16.1: all rows of up to four headers of every sort, in each form, ahead of the end and of zeros.
+// P16.1: all rows of up to three headers of every sort, in each form, and of up to four that begin with two that tell of others; records of zeros and broken ones among them.
 func TestRows(t *testing.T) {
 	t.Parallel()
 	for _, form := range forms {
